@@ -190,6 +190,11 @@ func peerRight(p peer) bool {
 	if !within(p.Ahead, -1, 255) || len(p.Behind) > 3 || slices.Contains(p.Behind, p.Id) || len(p.Fingers) != 8 || len(p.Shelves) > 80 {
 		return false
 	}
+	for _, id := range p.Behind {
+		if !within(id, 0, 255) {
+			return false
+		}
+	}
 	for _, f := range p.Fingers {
 		if !within(f, -1, 255) {
 			return false
@@ -599,7 +604,7 @@ func TestPeersThatAreRight(t *testing.T) {
 		"two behind":           func(p *peer) { p.Behind = []int{0, 255} },
 		"two alike behind":     func(p *peer) { p.Behind = []int{80, 80, 80} },
 		"behind out of order":  func(p *peer) { p.Behind = []int{220, 80, 150} },
-		"behind off the ring":  func(p *peer) { p.Behind = []int{-1, 256, 266} },
+		"both ends behind":     func(p *peer) { p.Behind = []int{255, 0, 1} },
 		"no finger known":      func(p *peer) { p.Fingers = slices.Repeat([]int{-1}, 8) },
 		"the least fingers":    func(p *peer) { p.Fingers = make([]int, 8) },
 		"the greatest fingers": func(p *peer) { p.Fingers = slices.Repeat([]int{255}, 8) },
@@ -640,6 +645,11 @@ func TestPeersThatAreNotRight(t *testing.T) {
 		"it behind, first":           func(p *peer) { p.Behind = []int{10, 80, 150} },
 		"it behind, last":            func(p *peer) { p.Behind = []int{80, 150, 10} },
 		"it behind alone":            func(p *peer) { p.Behind = []int{10} },
+		"nobody known behind":        func(p *peer) { p.Behind = []int{-1} },
+		"the last behind not known":  func(p *peer) { p.Behind = []int{80, 150, -1} },
+		"one behind past the ring":   func(p *peer) { p.Behind = []int{80, 256, 150} },
+		"it behind, once round":      func(p *peer) { p.Behind = []int{266} },
+		"all behind off the ring":    func(p *peer) { p.Behind = []int{-1, 256, 266} },
 		"no fingers":                 func(p *peer) { p.Fingers = nil },
 		"one finger too few":         func(p *peer) { p.Fingers = p.Fingers[:7] },
 		"one finger too many":        func(p *peer) { p.Fingers = append(p.Fingers, 80) },
@@ -687,6 +697,7 @@ func TestNumbersOfPeers(t *testing.T) {
 				t.Errorf("the finger %d is %d", i, n)
 			}
 		}
+		holdBehind(t, n)
 		p = rightPeer()
 		p.Shelves = []shelf{{Key: n}}
 		if impl.PeerOk(p) != within(n, 0, 255) {
@@ -713,6 +724,21 @@ func TestNumbersOfPeers(t *testing.T) {
 		p.Fingers = make([]int, count)
 		if impl.PeerOk(p) != (count == 8) {
 			t.Errorf("%d fingers", count)
+		}
+	}
+}
+
+// holdBehind puts n at each place behind one peer, in lists of each length.
+func holdBehind(t *testing.T, n int) {
+	t.Helper()
+	for count := 1; count <= 3; count++ {
+		for i := range count {
+			p := rightPeer()
+			p.Behind = p.Behind[:count]
+			p.Behind[i] = n
+			if impl.PeerOk(p) != (within(n, 0, 255) && n != p.Id) {
+				t.Errorf("%v are behind %d", p.Behind, p.Id)
+			}
 		}
 	}
 }
@@ -810,6 +836,7 @@ func TestRingsThatAreRight(t *testing.T) {
 		"wrong but right":                  func(r *ring) { r.Peers[0].Ahead, r.Peers[0].Fingers[3] = 77, 78 },
 		"shelves":                          func(r *ring) { r.Peers[2].Shelves = manyShelves(80) },
 		"Ids of both ends":                 func(r *ring) { r.Peers[6].Id, r.Peers[7].Id = 0, 255 },
+		"both ends behind":                 func(r *ring) { r.Peers[0].Behind = []int{255, 0, 80} },
 		"the same Ahead and fingers of it": func(r *ring) { r.Peers[1].Ahead, r.Peers[1].Fingers[0] = 80, 80 },
 	} {
 		r := ringOf(8)
@@ -852,6 +879,9 @@ func TestRingsThatAreNotRight(t *testing.T) {
 		"nobody of Behind that is Here":      func(r *ring) { r.Peers[2].Behind = []int{30, 40, 60} },
 		"nobody of Behind that there is":     func(r *ring) { r.Peers[0].Behind = []int{81, 0, 255} },
 		"Behind some times round":            func(r *ring) { r.Peers[0].Behind = []int{336, 406, -36} },
+		"one off the ring ahead of one Here": func(r *ring) { r.Peers[0].Behind = []int{-5, 80} },
+		"one off the ring behind one Here":   func(r *ring) { r.Peers[3].Behind = []int{10, 80, 256} },
+		"one of Behind not known":            func(r *ring) { r.Peers[1].Behind = []int{150, -1} },
 		"one that came with nobody behind":   func(r *ring) { r.Peers[5] = knowingPlainly([]int{40, 30}, 40) },
 		"one that came and knows nobody":     func(r *ring) { r.Peers[5] = knowingPlainly([]int{40}, 40) },
 		"a peer that is not right":           func(r *ring) { r.Peers[1].Ahead = 256 },
