@@ -14,23 +14,25 @@ type trip = impl.Trip
 // nobody is what Find tells beside a false.
 var nobody = trip{Owner: -1}
 
-func nextPlainly(r ring, id int) int {
+// nextPlainly is false without one: -1 may be an Id, in a ring that is not right.
+func nextPlainly(r ring, id int) (int, bool) {
 	at := slices.IndexFunc(r.Peers, func(p peer) bool { return p.Here && p.Id == id })
 	if at < 0 {
-		return -1
+		return -1, false
 	}
 	for _, other := range r.Peers[at].Behind {
 		if isHere(r, other) {
-			return other
+			return other, true
 		}
 	}
-	return -1
+	return -1, false
 }
 
 // stepToPlainly comes from the key back to the asking one, one by one, and takes whom it meets first.
 func stepToPlainly(r ring, id int, key int) (int, bool) {
-	next := nextPlainly(r, id)
-	if next == -1 {
+	key = aheadPlainly(0, key)
+	next, follows := nextPlainly(r, id)
+	if !follows {
 		return -1, false
 	}
 	if id == key {
@@ -41,7 +43,10 @@ func stepToPlainly(r ring, id int, key int) (int, bool) {
 	}
 	p := r.Peers[slices.IndexFunc(r.Peers, func(p peer) bool { return p.Here && p.Id == id })]
 	var known [256][]int
-	for _, other := range append(slices.Clone(p.Behind), p.Fingers...) {
+	for place, other := range append(slices.Clone(p.Behind), p.Fingers...) {
+		if finger := place >= len(p.Behind); finger && other == -1 {
+			continue
+		}
 		way := aheadPlainly(id, other)
 		known[way] = append(known[way], other)
 	}
@@ -51,7 +56,7 @@ func stepToPlainly(r ring, id int, key int) (int, bool) {
 	}
 	for ; way > 0; way-- {
 		for _, other := range known[way] {
-			if other != key && other != -1 && isHere(r, other) {
+			if other != key && isHere(r, other) {
 				return other, false
 			}
 		}
@@ -268,8 +273,10 @@ func TestWhomOneKnows(t *testing.T) {
 		{asking([]int{200, 40, 60}, 100), 41, 200, true}, {asking([]int{200, 40, 60}, 100), 200, 200, true}, {asking([]int{200, 40, 60}, 100), 201, 200, false}, {asking([]int{100, 40}, 60), 61, 100, true}, {asking([]int{100, 40}, 60), 101, 100, false},
 		// The next one is the only way on.
 		{asking([]int{40}), 41, 40, false}, {asking([]int{40}), 9, 40, false}, {asking([]int{40}, -1, 50, 70, 10), 100, 40, false}, {asking([]int{50, 40}, 100), 100, 40, false}, {asking([]int{240}, 250), 255, 240, false},
-		// Nobody is on the way, and the key, once round, not the asking one's number.
-		{asking([]int{10}), 266, 10, false}, {asking([]int{10, 50}, -1, 70), -246, 10, false},
+		// The key is once round the asking one's number: nobody else is named.
+		{asking([]int{10}), 266, 10, true}, {asking([]int{10, 50}, -1, 70), -246, 10, true}, {asking([]int{40, 60}, 100, 240), 266, 10, true},
+		// One that has the key's number, when that is gone round, is not asked on the way.
+		{asking([]int{40, 60, 100}, 60, 100), 316, 40, false}, {asking([]int{40, 60, 100}, 60, 100), -156, 60, false}, {asking([]int{40, 100}), 356, 40, false}, {asking([]int{40, 100}), 296, 40, true}, {asking([]int{40, 100}), 297, 40, false},
 	} {
 		holdStep(t, c.r, 10, c.key, c.to, c.found)
 	}
@@ -339,7 +346,16 @@ func TestNobodyToAsk(t *testing.T) {
 	}
 }
 
-// A key goes round: what is found is that of the number of the ring.
+// holdAsOnTheRing is for rings in which what is asked for is found.
+func holdAsOnTheRing(t *testing.T, r ring, by int, key int) {
+	t.Helper()
+	want, ok := impl.Find(r, by, aheadPlainly(0, key))
+	holdFind(t, r, by, key, want, ok)
+	to, found := impl.StepTo(r, by, aheadPlainly(0, key))
+	holdStep(t, r, by, key, to, found)
+}
+
+// A key goes round: who is named, and what is found, are those of the number of the ring.
 func TestKeysOffTheRing(t *testing.T) {
 	eight := ringOf(8)
 	hereAll(&eight)
@@ -347,18 +363,20 @@ func TestKeysOffTheRing(t *testing.T) {
 		here := impl.HereOf(r)
 		for _, by := range here {
 			for _, key := range ringNumbers {
-				want, _ := impl.Find(r, by, aheadPlainly(0, key))
-				holdFind(t, r, by, key, want, true)
-				if want.Owner != impl.OwnerOf(here, key) {
-					t.Errorf("by %d for %d: %+v", by, key, want)
+				holdAsOnTheRing(t, r, by, key)
+				if got, _ := impl.Find(r, by, key); got.Owner != impl.OwnerOf(here, key) {
+					t.Errorf("by %d for %d: %+v", by, key, got)
 				}
 			}
 			for key := -600; key < 900; key += 13 {
-				want, _ := impl.Find(r, by, aheadPlainly(0, key))
-				holdFind(t, r, by, key, want, true)
+				holdAsOnTheRing(t, r, by, key)
 			}
 			for _, rounds := range []int{-512, -256, 256, 1 << 40, -1 << 40} {
 				holdFind(t, r, by, by+rounds, trip{Owner: by}, true)
+				holdStep(t, r, by, by+rounds, by, true)
+				for _, other := range here {
+					holdAsOnTheRing(t, r, by, other+rounds)
+				}
 			}
 		}
 	}
@@ -372,14 +390,14 @@ func TestKeysOffTheRingByHand(t *testing.T) {
 	} {
 		holdFind(t, r, c.by, c.key, trip{Owner: c.owner, Hops: c.hops}, true)
 	}
-	// Of a step by how far it is; one is only its own number.
 	for _, c := range []struct {
 		id, key, to int
 		found       bool
 	}{
 		{10, 267, 80, true}, {10, 336, 80, true}, {10, -176, 80, true}, {10, 337, 80, false}, {10, 407, 150, false}, {10, -1, 220, false}, {10, 256, 220, false}, {220, -1, 10, true}, {220, 256, 10, true}, {220, math.MaxInt, 10, true}, {220, math.MinInt, 10, true}, {220, 1<<40 + 10, 10, true},
 		{80, math.MaxInt, 220, false}, {80, math.MinInt, 220, false}, {80, 1 << 32, 220, false}, {80, 1<<32 + 150, 150, true}, {80, -106, 150, true}, {80, -105, 150, false},
-		{10, 266, 220, false}, {10, -246, 220, false}, {220, -36, 150, false}, {10, 406, 150, false}, {10, -36, 220, false},
+		{10, 266, 10, true}, {10, -246, 10, true}, {220, -36, 220, true}, {220, 476, 220, true}, {10, math.MinInt + 10, 10, true}, {10, math.MaxInt - 245, 10, true},
+		{10, 406, 80, false}, {10, -106, 80, false}, {10, -36, 150, false}, {10, 476, 150, false}, {150, 266, 220, false}, {150, -246, 220, false}, {10, 1<<40 + 150, 80, false},
 	} {
 		holdStep(t, r, c.id, c.key, c.to, c.found)
 	}
@@ -474,7 +492,8 @@ func TestWaysThatGoRound(t *testing.T) {
 
 	alone := row([]int{266})
 	holdStep(t, alone, 266, 10, 266, false)
-	holdStep(t, alone, 266, 266, 266, true)
+	// The key goes round; an Id does not.
+	holdStep(t, alone, 266, 266, 266, false)
 	holdFind(t, alone, 266, 10, nobody, false)
 	holdFind(t, alone, 266, 266, nobody, false)
 	holdFind(t, alone, 266, 11, trip{Owner: 266}, true)
@@ -537,7 +556,8 @@ func thrownWays(d *dice) ring {
 		}
 	}
 	for i := range r.Peers {
-		if p := &r.Peers[i]; p.Here && nextPlainly(r, p.Id) == -1 {
+		p := &r.Peers[i]
+		if _, follows := nextPlainly(r, p.Id); p.Here && !follows {
 			p.Behind = append(p.Behind, ids[size-1])
 		}
 	}
@@ -566,14 +586,31 @@ func TestThrownWays(t *testing.T) {
 // The same Id more than once, Here and not, and those that know whom there is not.
 func TestFoundInThrownRings(t *testing.T) {
 	d := dice(104)
-	for range 1200 {
+	for i := range 1200 {
 		r := thrownRing(&d)
+		if i%2 > 0 {
+			nameMinusOne(&r)
+		}
 		for range 6 {
 			id, key := 20*(d.below(12)-1), 20*(d.below(16)-1)+d.below(3)-1
+			if i%2 > 0 {
+				id = max(id, -1)
+			}
 			to, found := stepToPlainly(r, id, key)
 			holdStep(t, r, id, key, to, found)
 			want, ok := findPlainly(r, id, key)
 			holdFind(t, r, id, key, want, ok)
+		}
+	}
+}
+
+// nameMinusOne has -1 as the Id of those below 0.
+func nameMinusOne(r *ring) {
+	for i := range r.Peers {
+		p := &r.Peers[i]
+		p.Id = max(p.Id, -1)
+		for n := range p.Behind {
+			p.Behind[n] = max(p.Behind[n], -1)
 		}
 	}
 }
@@ -609,19 +646,71 @@ func TestFoundAmongIdsThatAreThereTwice(t *testing.T) {
 	}
 }
 
-// By -1 it is told that nobody is known, or that there is none, also when somebody has it as an Id.
-func TestMinusOneIsNobody(t *testing.T) {
-	r := asking([]int{40, -1}, -1, 60)
+// withMinusOne has one more who is Here, with the Id -1, who knows 10.
+func withMinusOne(known []int, fingers ...int) ring {
+	r := asking(known, fingers...)
 	r.Peers = append(r.Peers, peer{Id: -1, Here: true, Behind: []int{10}})
-	holdStep(t, r, 10, 0, 60, false)
-	holdStep(t, r, 10, 255, 60, false)
-	r.Peers[0].Behind = []int{-1, 40}
-	holdStep(t, r, 10, 0, -1, false)
-	holdStep(t, r, 10, 10, -1, false)
-	// One with that Id would tell of this key, but is not asked.
+	return r
+}
+
+// Whoever is Here is one to name, whatever its Id is.
+func TestMinusOneBehindIsAnId(t *testing.T) {
+	for _, c := range []struct {
+		r     ring
+		key   int
+		to    int
+		found bool
+	}{
+		{withMinusOne([]int{40, -1}, 60), 0, -1, false}, {withMinusOne([]int{40, -1}, 60), 9, -1, false}, {withMinusOne([]int{40, 60, -1}, 240), 0, -1, false}, {withMinusOne([]int{40, -1, 240}), 0, -1, false},
+		// It stands where 255 does, and is another one.
+		{withMinusOne([]int{40, -1}, 60), 255, -1, false}, {withMinusOne([]int{40, -1}, 60), -1, -1, false},
+		// It is too far, or the key is the asking one's, or that of the next one.
+		{withMinusOne([]int{40, -1}, 60), 254, 60, false}, {withMinusOne([]int{40, -1}, 60), 61, 60, false}, {withMinusOne([]int{40, -1}, 60), 10, 10, true}, {withMinusOne([]int{40, -1}, 60), 40, 40, true},
+		// It is the next one.
+		{withMinusOne([]int{-1, 40}, 60), 10, 10, true}, {withMinusOne([]int{-1, 40}, 60), 11, -1, true}, {withMinusOne([]int{-1, 40}, 60), 255, -1, true}, {withMinusOne([]int{-1, 40}, 60), 0, -1, false}, {withMinusOne([]int{50, 70, -1}), 266, 10, true}, {withMinusOne([]int{50, 70, -1}), 200, -1, true}, {withMinusOne([]int{-1}), 9, -1, false},
+	} {
+		holdStep(t, c.r, 10, c.key, c.to, c.found)
+		if c.to == -1 {
+			holdFind(t, c.r, 10, c.key, nobody, false)
+		}
+	}
+	holdFind(t, withMinusOne([]int{-1}), 10, 10, trip{Owner: 10}, true)
+	holdFind(t, withMinusOne([]int{40, -1}), 10, 100, trip{Owner: 100, Hops: 3}, true)
+	// Those that come to one who names it are told nobody.
+	holdFind(t, withMinusOne([]int{-1}), 240, 100, nobody, false)
+	holdFind(t, withMinusOne([]int{40, -1}), 240, 5, trip{Owner: 10, Hops: 1}, true)
+	// It asks like others.
+	r := withMinusOne([]int{40, 60})
 	holdStep(t, r, -1, 5, 10, true)
-	holdFind(t, r, 10, 5, nobody, false)
-	holdFind(t, r, 10, 100, nobody, false)
+	holdStep(t, r, -1, 11, 10, false)
+	holdFind(t, r, -1, 5, trip{Owner: 10, Hops: 1}, true)
+	holdFind(t, r, -1, 60, trip{Owner: 60, Hops: 3}, true)
+	holdStep(t, r, -1, -1, 10, false)
+	// Others below 0 are named, and found, like those above.
+	r = asking([]int{40, -2})
+	r.Peers = append(r.Peers, peer{Id: -2, Here: true, Behind: []int{10}})
+	holdStep(t, r, 10, 0, -2, false)
+	holdFind(t, r, 10, 0, trip{Owner: 10, Hops: 2}, true)
+}
+
+// Among the fingers -1 is one that is not known, also when somebody has it as an Id; and without one Here it is nobody's.
+func TestMinusOneAsNobody(t *testing.T) {
+	r := withMinusOne([]int{40, 60}, -1, 60, -1)
+	for _, key := range []int{0, 9, 255, -1, 254} {
+		holdStep(t, r, 10, key, 60, false)
+	}
+	holdStep(t, withMinusOne([]int{40}, slices.Repeat([]int{-1}, 8)...), 10, 0, 40, false)
+	holdStep(t, withMinusOne(nil, slices.Repeat([]int{-1}, 8)...), 10, 0, -1, false)
+	holdStep(t, withMinusOne(nil, -1), 10, 10, -1, false)
+	r = withMinusOne([]int{-1, 40, -1}, -1, 60)
+	r.Peers[len(r.Peers)-1] = peer{Id: -1}
+	holdStep(t, r, 10, 10, 10, true)
+	holdStep(t, r, 10, 40, 40, true)
+	holdStep(t, r, 10, 0, 60, false)
+	holdStep(t, r, -1, 5, -1, false)
+	r.Peers[0].Behind = []int{-1}
+	holdStep(t, r, 10, 10, -1, false)
+	holdFind(t, r, 10, 10, nobody, false)
 }
 
 // Of Ids that are some times round from each other the first one that is known is named.
